@@ -60,7 +60,7 @@ func TestClass(t *testing.T) {
 		0xA: api.B, 0x9: api.S, 0x20: api.WS, 0x21: api.ON, 0x202A: api.LRE, 0x202D: api.LRO, 0x202B: api.RLE, 0x202E: api.RLO, 0x202C: api.PDF,
 		0x2066: api.LRI, 0x2067: api.RLI, 0x2068: api.FSI, 0x2069: api.PDI,
 		0: api.BN, 8: api.BN, 0x6F0: api.EN, 0x300: api.NSM, 0x2FF: api.L, 0x370: api.L, 0x200E: api.L, 0x200F: api.R, 0x61C: api.AL, 0xFE8D: api.AL,
-		0x4E00: api.L, 0xE0FFF: api.BN, 0xE1000: api.L, 0x10FFFF: api.L, 0x110000: api.ON, 0x11D800: api.ON, 0x110627: api.ON, -1: api.ON,
+		0x4E00: api.L, 0xD800: api.L, 0xDFFF: api.L, 0xE0FFF: api.BN, 0xE1000: api.L, 0x10FFFF: api.L, 0x110000: api.ON, 0x11D800: api.ON, 0x110627: api.ON, -1: api.ON,
 	} {
 		if got := p.Class(code); got != want {
 			t.Errorf("Class(%#x): %d, not %d", code, got, want)
