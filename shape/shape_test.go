@@ -334,7 +334,7 @@ func TestThereAndBack(t *testing.T) {
 	for _, codes := range [][]int{{lam, alef, fatha, shadda}, {lam, madda, small, space}, {seen, yeh, bare, hamza}, {lam, alef, joiner, 0x200E}, {seen, kasra, alef, one}} {
 		for n := range 5 {
 			each(n, codes, func(text []int) {
-				for _, o := range lettered() {
+				for _, o := range append(lettered(), api.Options{}) {
 					if returns(p, text, o) {
 						thereAndBack(t, p, text, o)
 					}
@@ -378,10 +378,12 @@ func again(t *testing.T, p *props.Props, text []int, o api.Options) {
 func TestAgain(t *testing.T) {
 	p := props.New()
 	var ways []api.Options
-	for _, o := range lettered() {
+	for _, o := range append(lettered(), api.Options{}) {
 		if o.LamAlef <= api.LamResize && o.Tashkeel == api.MarkKeep && !o.Yeh && !(o.Pile && o.Through) {
 			for o.Digits = range 5 {
-				ways = append(ways, o)
+				eastern := o
+				eastern.Eastern = true
+				ways = append(ways, o, eastern)
 			}
 		}
 	}
